@@ -49,6 +49,9 @@ func TestMeanFirst(t *testing.T) {
 		{"(fun f () bool (/ 1 0))(main (f))", stops(impl.MeanDiv, 4)}, {"(fun f () bool 1)(main (+ (f) (/ 1 0)))", wrong(3)}, {"(fun f () bool (print 1))(main (+ (print 2) (f)))", wrong(6, 2, 1)}, {"(fun f () bool 1)(main (+ (/ 1 0) (f)))", stops(impl.MeanDiv, 4)},
 		// What is asked whether it is true is asked at once.
 		{"(main (if 1 (/ 1 0) (/ 1 0)))", wrong(2)}, {"(main (if (/ 1 0) nope nope))", stops(impl.MeanDiv, 4)}, {"(main (and 1 (= 1 (/ 1 0))))", wrong(2)}, {"(main (or (= 1 (/ 1 0)) nope))", stops(impl.MeanDiv, 6)}, {"(main (or 1 nope))", wrong(2)},
+		{"(main (let x (or false (print 7)) (print 8)))", wrong(5, 7)}, {"(main (% (and true 1) (print 2)))", wrong(4)}, {"(main (+ (print 2) (or false 1)))", wrong(6, 2)}, {"(main (and true (/ 1 0)))", stops(impl.MeanDiv, 5)}, {"(main (or false (+ (print 1) (/ 1 0))))", stops(impl.MeanDiv, 8, 1)},
+		{"(main (row (and true 1) (/ 1 0)))", wrong(4)}, {"(main (row (/ 1 0) (and true 1)))", stops(impl.MeanDiv, 4)}, {"(main (nope (and true (print 1))))", wrong(5, 1)}, {"(fun f () bool (or false 1))(main (+ (f) (/ 1 0)))", wrong(5)},
+		{"(main (and true 5))|(main (print 1))", wrong(3)}, {"(main (print 1))|(main (or false 5))|(main (print 2))", wrong(5, 1)}, {"(main (and false 5))|(main (print 1))", halts(4, 1)}, {"(main (and true false))|(main (print 1))", halts(5, 1)},
 		{"(main (let x (/ 1 0) nope))", stops(impl.MeanDiv, 4)}, {"(main (let x nope (/ 1 0)))", wrong(2)}, {"(main (let x true (+ x (/ 1 0))))", stops(impl.MeanDiv, 7)},
 		{"(main (/ 1 0))|(main nope)", stops(impl.MeanDiv, 3)}, {"(main nope)|(main (/ 1 0))", wrong(1)},
 	})
@@ -65,6 +68,8 @@ func TestMeanWant(t *testing.T) {
 		{"(main 1)", 1, halts(1)}, {"(main (print 7))", 1, starves(1)}, {"(main (print 7))", 2, halts(2, 7)}, {"(main (+ (print 7) 1))", 3, starves(3, 7)}, {"(main (+ (print 7) 1))", 4, halts(4, 7)},
 		{"(main (/ 1 0))", 2, starves(2)}, {"(main (/ 1 0))", 3, stops(impl.MeanDiv, 3)}, {"(main (not 1))", 1, starves(1)}, {"(main (not 1))", 2, wrong(2)}, {"(main (if 1 2 3))", 2, wrong(2)}, {"(main (if true nope 3))", 2, starves(2)},
 		{"(main (+ true (/ 1 0)))", 4, starves(4)}, {"(main (+ true (/ 1 0)))", 5, stops(impl.MeanDiv, 5)}, {"(main (and true nope))", 2, starves(2)}, {"(main (and false nope))", 2, halts(2)},
+		{"(main (and true 5))", 2, starves(2)}, {"(main (and true 5))", 3, wrong(3)}, {"(main (or false 5))", 2, starves(2)}, {"(main (or false 5))", 3, wrong(3)}, {"(main (and false 5))", 1, starves(1)}, {"(main (and false 5))", 2, halts(2)},
+		{"(main (or false (print 7)))", 3, starves(3)}, {"(main (or false (print 7)))", 4, wrong(4, 7)}, {"(main (let x (or false (print 7)) (print 8)))", 5, wrong(5, 7)}, {"(main (and true false))", 2, starves(2)}, {"(main (and true false))", 3, halts(3)},
 		{"(fun f () int 1)(main (f))", 1, starves(1)}, {"(fun f () bool 1)(main (f))", 1, starves(1)}, {"(fun f () bool 1)(main (f))", 2, wrong(2)}, {"(fun f ((x int)) int x)(main (f true))", 2, wrong(2)},
 		{"(fun f () int (f))(main (f))", 30, starves(30)}, {"(fun f () int (f))(main (f))", 31, stops(impl.MeanDeep, 31)},
 	} {
@@ -267,7 +272,7 @@ func upToNums(n int) []impl.TreeExpr {
 
 // Calls of functions, with values that fit and with others.
 func TestMeanCallListed(t *testing.T) {
-	mods := modsOf(t, "(pub sq ((x int)) int (* x x))(fun own ((r row)(i int)) int (at r i))(fun neg ((b bool)) bool (not b))(fun id ((r row)) row r)(fun bad () bool (print 3))(pub four ((a int)(b bool)(c row)(d int)) row (if b (put c a d) c))(main (print 7))", "(use a)(pub sq ((x int)) int (print (a.sq (+ x 1))))")
+	mods := modsOf(t, "(pub sq ((x int)) int (* x x))(fun own ((r row)(i int)) int (at r i))(fun neg ((b bool)) bool (not b))(fun id ((r row)) row r)(fun bad () bool (print 3))(fun num () int (and true 1))(fun late ((b bool)) bool (or b (print 4)))(pub four ((a int)(b bool)(c row)(d int)) row (if b (put c a d) c))(main (print 7))", "(use a)(pub sq ((x int)) int (print (a.sq (+ x 1))))")
 	of := func(vals ...impl.MeanVal) []impl.MeanVal { return vals }
 	none := impl.MeanEnd{End: impl.MeanWrong}
 	for i, c := range []struct {
@@ -281,6 +286,8 @@ func TestMeanCallListed(t *testing.T) {
 		{"a", "own", of(rowOf(5, 6), intOf(1)), intOf(6), halts(3)}, {"a", "own", of(rowOf(5, 6), intOf(2)), impl.MeanVal{}, stops(impl.MeanPlace, 3)}, {"a", "own", of(rowOf(5, 6), intOf(-1)), impl.MeanVal{}, stops(impl.MeanPlace, 3)},
 		{"a", "id", of(rowOf()), rowOf(), halts(1)}, {"a", "id", of(rowOf(upTo(16)...)), rowOf(upTo(16)...), halts(1)}, {"a", "id", of(rowOf(upTo(17)...)), impl.MeanVal{}, none}, {"a", "bad", nil, impl.MeanVal{}, wrong(2, 3)},
 		{"a", "four", of(intOf(0), boolOf(true), rowOf(1), intOf(9)), rowOf(9), halts(6)}, {"a", "four", of(intOf(0), boolOf(false), rowOf(1), intOf(9)), rowOf(1), halts(3)}, {"a", "four", of(intOf(0), boolOf(true), rowOf(), intOf(9)), impl.MeanVal{}, stops(impl.MeanPlace, 6)},
+		// The second of an `and` or an `or` is of the wanted Kind, where it is evaluated, or there is no value.
+		{"a", "num", nil, impl.MeanVal{}, wrong(3)}, {"a", "late", of(boolOf(true)), boolOf(true), halts(2)}, {"a", "late", of(boolOf(false)), impl.MeanVal{}, wrong(4, 4)},
 		// Too few, too many, of other Kinds.
 		{"a", "sq", nil, impl.MeanVal{}, none}, {"a", "sq", of(intOf(1), intOf(2)), impl.MeanVal{}, none}, {"a", "sq", of(boolOf(true)), impl.MeanVal{}, none}, {"a", "sq", of(rowOf()), impl.MeanVal{}, none}, {"a", "bad", of(intOf(1)), impl.MeanVal{}, none},
 		{"a", "own", of(intOf(1), rowOf(5, 6)), impl.MeanVal{}, none}, {"a", "four", of(intOf(0), boolOf(true), rowOf(1)), impl.MeanVal{}, none}, {"a", "four", of(intOf(0), boolOf(true), rowOf(1), intOf(9), intOf(9)), impl.MeanVal{}, none}, {"a", "four", of(intOf(0), boolOf(true), rowOf(1), boolOf(true)), impl.MeanVal{}, none},

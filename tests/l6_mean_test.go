@@ -83,9 +83,9 @@ func (d *plainDoer) eval(e impl.TreeExpr, at plainSpot) func() {
 		case e.Kind == impl.TreeIf:
 			d.soon(d.eval(e.Kids[0], at), d.fork(d.eval(e.Kids[1], at), d.eval(e.Kids[2], at)))
 		case e.Name == "and" && e.Kind == impl.TreePrim:
-			d.soon(d.eval(e.Kids[0], at), d.fork(d.eval(e.Kids[1], at), func() { d.give(boolOf(false)) }))
+			d.soon(d.eval(e.Kids[0], at), d.fork(d.asked(e.Kids[1], at), func() { d.give(boolOf(false)) }))
 		case e.Name == "or" && e.Kind == impl.TreePrim:
-			d.soon(d.eval(e.Kids[0], at), d.fork(func() { d.give(boolOf(true)) }, d.eval(e.Kids[1], at)))
+			d.soon(d.eval(e.Kids[0], at), d.fork(func() { d.give(boolOf(true)) }, d.asked(e.Kids[1], at)))
 		default:
 			d.evalAll(e, at)
 		}
@@ -103,6 +103,17 @@ func (d *plainDoer) fork(held, other func()) func() {
 		default:
 			d.soon(other)
 		}
+	}
+}
+
+// asked makes a truth of an expression.
+func (d *plainDoer) asked(e impl.TreeExpr, at plainSpot) func() {
+	return func() {
+		d.soon(d.eval(e, at), func() {
+			if d.vals[len(d.vals)-1].Kind != impl.TreeBool {
+				d.stop(impl.MeanWrong, 0)
+			}
+		})
 	}
 }
 
@@ -356,7 +367,7 @@ func TestMeanNumbers(t *testing.T) {
 	})
 }
 
-// The second of `and` and of `or` is evaluated only where the first one asks for it, and not asked whether it is true.
+// The second of `and` and of `or` is evaluated only where the first one asks for it, and is of the wanted Kind there.
 func TestMeanShort(t *testing.T) {
 	checkEnds(t, []ends{
 		{"(main (print (if (and true true) 1 0)))", halts(6, 1)}, {"(main (print (if (and true false) 1 0)))", halts(6, 0)}, {"(main (print (if (and false true) 1 0)))", halts(5, 0)},
@@ -366,8 +377,15 @@ func TestMeanShort(t *testing.T) {
 		{"(main (and false nope))", halts(2)}, {"(main (or true nope))", halts(2)}, {"(main (and true nope))", wrong(3)}, {"(main (or false nope))", wrong(3)},
 		{"(main (and false (nope)))", halts(2)}, {"(main (and (and true false) (or nope nope)))", halts(4)}, {"(main (or (and true true) (and nope nope)))", halts(4)},
 		{"(main (and 1 true))", wrong(2)}, {"(main (or 0 true))", wrong(2)}, {"(main (and (row) (= (print 1) 1)))", wrong(2)}, {"(main (or (print 0) true))", wrong(3, 0)},
-		{"(main (and true 5))", halts(3)}, {"(main (or false (row 1)))", halts(4)}, {"(main (print (and true 5)))", halts(4, 5)}, {"(main (len (or false (row 1))))", halts(5)},
-		{"(main (not (and true 5)))", wrong(4)}, {"(main (if (or false 1) 1 2))", wrong(4)}, {"(main (and (and true 5) true))", wrong(4)}, {"(fun f () bool (and true 5))(main (f))", wrong(4)}, {"(fun f () int (and true 5))(main (print (f)))", halts(5, 5)},
+		{"(main (and true 5))", wrong(3)}, {"(main (or false 5))", wrong(3)}, {"(main (and true (row 1)))", wrong(4)}, {"(main (or false (row 1)))", wrong(4)}, {"(main (and true 0))", wrong(3)}, {"(main (or false 1))", wrong(3)}, {"(main (and true (row)))", wrong(3)},
+		{"(main (and false 5))", halts(2)}, {"(main (or true 5))", halts(2)}, {"(main (and false (row (print 1))))", halts(2)}, {"(main (or true (row (print 1))))", halts(2)}, {"(main (and 5 5))", wrong(2)}, {"(main (or 5 5))", wrong(2)},
+		{"(main (print (and true 5)))", wrong(4)}, {"(main (len (or false (row 1))))", wrong(5)}, {"(main (if (and true 1) (print 1) (print 2)))", wrong(4)}, {"(main (and true (print 4)))", wrong(4, 4)}, {"(main (or false (row (print 4) (print 5))))", wrong(7, 4, 5)},
+		{"(main (or false (and true (or false 5))))", wrong(7)}, {"(main (or false (and true (or false true))))", halts(7)}, {"(main (or (and true 5) true))", wrong(4)}, {"(main (or true (and true 5)))", halts(2)}, {"(main (and (or false true) 5))", wrong(5)},
+		// So it is with what a let, an if, a variable and a call make.
+		{"(main (and true (let x true x)))", halts(5)}, {"(main (and true (let x 5 x)))", wrong(5)}, {"(main (let x 5 (or false x)))", wrong(5)}, {"(main (let x false (or false x)))", halts(5)},
+		{"(main (and true (if true 5 true)))", wrong(5)}, {"(main (and true (if true false 5)))", halts(5)}, {"(main (or false (if false true (row))))", wrong(5)},
+		{"(fun f () int 1)(main (and true (f)))", wrong(4)}, {"(fun f () bool true)(main (and true (f)))", halts(4)}, {"(fun f ((r row)) bool (or false r))(main (f (row)))", wrong(5)},
+		{"(main (not (and true 5)))", wrong(4)}, {"(main (if (or false 1) 1 2))", wrong(4)}, {"(main (and (and true 5) true))", wrong(4)}, {"(fun f () bool (and true 5))(main (f))", wrong(4)}, {"(fun f () int (and true 5))(main (print (f)))", wrong(5)},
 	})
 }
 
