@@ -31,7 +31,6 @@ func must(right bool) {
 type codeFrame struct {
 	*codeRunner
 	mod   string
-	fun   impl.CodeFun
 	slots []impl.MeanVal
 	stack []impl.MeanVal
 	depth int
@@ -118,7 +117,7 @@ func (c *codeRunner) call(mod string, fun impl.CodeFun, args []impl.MeanVal, dep
 // run runs a function to its `back`.
 func (c *codeRunner) run(mod string, fun impl.CodeFun, args []impl.MeanVal, depth int) impl.MeanVal {
 	must(len(args) == len(fun.Args) && len(args) <= fun.Slots)
-	f := &codeFrame{codeRunner: c, mod: mod, fun: fun, slots: make([]impl.MeanVal, fun.Slots), depth: depth}
+	f := &codeFrame{codeRunner: c, mod: mod, slots: make([]impl.MeanVal, fun.Slots), depth: depth}
 	copy(f.slots, args)
 	for at := 0; ; {
 		if c.end.Steps == c.fuel {
@@ -149,7 +148,7 @@ func (c *codeRunner) told(do func()) (end impl.MeanEnd) {
 		end = c.end
 	}()
 	do()
-	return
+	return c.end
 }
 
 // codeCalled is what a call of a function of an object comes to.

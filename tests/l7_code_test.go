@@ -412,7 +412,7 @@ func TestCodeForksDo(t *testing.T) {
 			want, wantEnd := impl.MeanCall(mods, "m", "f", args, 1000)
 			got, end := codeCalled(map[string]impl.CodeObj{"m": o}, "m", 0, args, 1000)
 			if asked++; !sameVal(got, want) || end.End != impl.MeanHalt || wantEnd.End != impl.MeanHalt {
-				t.Fatalf("%v of %v is %v, %v; want %v\n%s%s", impl.TreePrint(m), args, got, end, want, impl.TreePrint(m), listed(o.Funs[0].Code))
+				t.Fatalf("%s of %v is %v, %v; want %v: %s", impl.TreePrint(m), args, got, end, want, listed(o.Funs[0].Code))
 			}
 		}
 	})
