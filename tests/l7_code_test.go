@@ -591,6 +591,20 @@ func TestCodeWrong(t *testing.T) {
 		if o, ok := checkCode(t, "parts", m, faces); ok != (n <= 8) || ok && listed(o.Funs[0].Code[n:]) != "row "+strconv.Itoa(n)+", back 0" {
 			t.Error("parts", n, o, ok)
 		}
+		m = impl.TreeMod{Main: []impl.TreeExpr{num(1)}}
+		for _, name := range names(n) {
+			m.Funs = append(m.Funs, impl.TreeFun{Name: name, Type: 1, Body: num(1)})
+		}
+		if o, ok := checkCode(t, "functions", m, nil); ok != (n <= 8) || ok && len(o.Funs) != n+1 {
+			t.Error("functions", n, o, ok)
+		}
+		f := impl.TreeFun{Name: "f", Type: 1, Body: num(1)}
+		for _, name := range names(n) {
+			f.Args = append(f.Args, impl.TreeArg{Name: name, Type: 2})
+		}
+		if o, ok := checkCode(t, "parameters", impl.TreeMod{Funs: []impl.TreeFun{f}}, nil); ok != (n <= 4) || ok && (o.Funs[0].Slots != n || len(o.Funs[0].Args) != n) {
+			t.Error("parameters", n, o, ok)
+		}
 	}
 }
 
